@@ -114,3 +114,17 @@ func TestLayoutAndLengths(t *testing.T) {
 		}
 	}
 }
+
+// A map that is asked in the call that made it has numbers, structs, lists or functions as values.
+func TestMapValues(t *testing.T) {
+	for _, s := range sources(t) {
+		ast.Inspect(s.file, func(n ast.Node) bool {
+			if m, ok := n.(*ast.MapType); ok {
+				if value, ok := m.Value.(*ast.Ident); ok && (value.Name == "bool" || value.Name == "string") {
+					t.Errorf("%s: a map with values of %s", s.fset.Position(m.Pos()), value.Name)
+				}
+			}
+			return true
+		})
+	}
+}
