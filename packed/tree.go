@@ -1,4 +1,4 @@
-package forest
+package packed
 
 import (
 	"tracery/api"
@@ -8,9 +8,9 @@ import (
 const deepest = 1000
 
 // choose is the way of a node to its tree, or row of trees, of that number, and the number among the way's own.
-func (t *table) choose(n node, rank int) (way, int) {
+func (t *Table) choose(n node, rank int) (way, int) {
 	for w := range t.waysOf(n) {
-		trees := w.trees()
+		trees := w.count()
 		if rank < trees {
 			return w, rank
 		}
@@ -20,7 +20,7 @@ func (t *table) choose(n node, rank int) (way, int) {
 }
 
 // tree is the tree of that number of a symbol node that was counted.
-func (t *table) tree(root node, rank int) api.Tree {
+func (t *Table) tree(root node, rank int) api.Tree {
 	type task struct {
 		tree *api.Tree
 		node node
@@ -39,7 +39,7 @@ func (t *table) tree(root node, rank int) api.Tree {
 		*k.tree = api.Tree{Rule: w.rule, Kids: kids}
 		for i := len(kids) - 1; i >= 0; i-- {
 			w, rank = t.choose(w.left, rank)
-			trees := w.right.trees()
+			trees := w.right.count()
 			if w.right == (node{}) {
 				kids[i] = api.Tree{Rule: -1, Byte: t.text[w.mid]}
 			} else {
