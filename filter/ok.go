@@ -4,8 +4,8 @@ import (
 	"bytes"
 
 	"tracery/api"
+	"tracery/kin"
 	"tracery/trees"
-	"tracery/walk"
 )
 
 // Ok tells why a tree of w is not kept.
@@ -21,7 +21,7 @@ func Ok(g api.Gram, f api.Filters, w []byte, t api.Tree) api.Errno {
 	}
 	s := newSieve(g, f, w)
 	spans := trees.Spans(t)
-	for part := range walk.Tree(t) {
+	for part := range kin.Parts(&t, kin.OfTree) {
 		span := spans[0]
 		spans = spans[1:]
 		if part.Rule == -1 {

@@ -4,7 +4,7 @@ import (
 	"iter"
 
 	"tracery/api"
-	"tracery/walk"
+	"tracery/kin"
 )
 
 // part is a leaf or node as it lies in a tree.
@@ -18,7 +18,7 @@ type part struct {
 func parts(t api.Tree) iter.Seq[part] {
 	return func(yield func(p part) bool) {
 		leaf := 0 // how deep the leaf lies whose Kids are gone through; 0: it is none
-		for tree, deep := range walk.Tree(t) {
+		for tree, deep := range kin.Parts(&t, kin.OfTree) {
 			p := part{Tree: tree, deep: deep}
 			if deep <= leaf {
 				leaf = 0
@@ -46,14 +46,7 @@ func Yield(t api.Tree) []byte {
 }
 
 // Size tells how many leaves and nodes a tree has, and how deep it is.
-func Size(t api.Tree) (int, int) {
-	size, deepest := 0, 0
-	for p := range parts(t) {
-		size++
-		deepest = max(deepest, p.deep)
-	}
-	return size, deepest
-}
+func Size(t api.Tree) (int, int) { return kin.Size(t, kin.OfTree) }
 
 // Spans tells where each leaf and node reaches.
 func Spans(t api.Tree) []api.Run {
