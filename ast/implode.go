@@ -5,6 +5,7 @@ import (
 
 	"tracery/api"
 	"tracery/kernel"
+	"tracery/lists"
 	"tracery/trees"
 )
 
@@ -85,15 +86,9 @@ func (i *imploder) hole(s api.Sym, node *api.Tree, place int, term *api.Term) {
 	}
 }
 
-// list turns a node of a list. It goes down to the first part itself, since a list nests as often as it has parts.
+// list turns a node of a list.
 func (i *imploder) list(j job) {
-	var parts []*api.Tree // from the right
-	node := j.node
-	for ; i.origin(node).Kind == api.OMore; node = &node.Kids[0] {
-		parts = append(parts, &node.Kids[len(node.Kids)-1])
-	}
-	parts = append(parts, &node.Kids[0])
-	slices.Reverse(parts)
+	parts := lists.Parts(i.kern.From, j.node)
 	kids := make([]api.Term, len(parts))
 	*j.term = api.Term{Kind: api.TList, Kids: kids}
 	for n, part := range parts {

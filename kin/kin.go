@@ -1,4 +1,4 @@
-// Package kin has what trees and terms share: they have kids of their own kind. Each call is told by a function where a thing has them.
+// Package kin has what trees, terms and documents share: they have kids of their own kind. Each call is told by a function where a thing has them.
 package kin
 
 import (
@@ -16,6 +16,9 @@ func OfTree(t *api.Tree) *[]api.Tree { return &t.Kids }
 
 // OfTerm tells where a term has its kids.
 func OfTerm(t *api.Term) *[]api.Term { return &t.Kids }
+
+// OfDoc tells where a document has its kids.
+func OfDoc(d *api.Doc) *[]api.Doc { return &d.Kids }
 
 // row is kids that are still to come, and how deep they lie.
 type row[T any] struct {

@@ -74,6 +74,17 @@ func TestTerms(t *testing.T) {
 	}
 }
 
+func TestDocs(t *testing.T) {
+	doc := api.Doc{Text: "a", Kids: []api.Doc{{Text: "b", Kids: []api.Doc{{Text: "c"}}}, {Text: "d"}}}
+	text := ""
+	for part, deep := range Parts(&doc, OfDoc) {
+		text += fmt.Sprintf(" %s@%d", part.Text, deep)
+	}
+	if text != " a@1 b@2 c@3 d@2" {
+		t.Error(text)
+	}
+}
+
 func TestSize(t *testing.T) {
 	for _, c := range []struct {
 		tree       api.Tree
