@@ -12,8 +12,12 @@ import (
 	"tracery/trees"
 )
 
-// piece is the memory of a list, up to its capacity.
-type piece struct{ from, to uintptr }
+// piece is the memory of a list, up to its capacity; it holds the list, since memory that nobody
+// holds is given to another list.
+type piece struct {
+	from, to uintptr
+	held     reflect.Value
+}
 
 // pieces is the memory of all lists in a value.
 func pieces(v reflect.Value) []piece {
@@ -25,7 +29,7 @@ func pieces(v reflect.Value) []piece {
 		}
 	case reflect.Slice:
 		if v.Cap() > 0 {
-			list = append(list, piece{v.Pointer(), v.Pointer() + uintptr(v.Cap())*v.Type().Elem().Size()})
+			list = append(list, piece{v.Pointer(), v.Pointer() + uintptr(v.Cap())*v.Type().Elem().Size(), v})
 		}
 		for i := range v.Len() {
 			list = append(list, pieces(v.Index(i))...)
@@ -65,7 +69,7 @@ func TestNewMemory(t *testing.T) {
 		d, x := must(t, text), term(t, greatTerm)
 		tree := treeOf(t, made(t, text), "E", "a12#(1)+o12=12.#p(nil);;s..=3")
 		list := slices.Concat(pieces(reflect.ValueOf(d)), pieces(reflect.ValueOf(x)), pieces(reflect.ValueOf(tree)))
-		var kept []any // so that no memory is used twice
+		var kept []any
 		for range 2 {
 			plain, e1 := Explode(d, "E", x)
 			back, e2 := Implode(d, plain)

@@ -10,8 +10,12 @@ import (
 	"tracery/charset"
 )
 
-// piece is the memory of a list, up to its capacity.
-type piece struct{ from, to uintptr }
+// piece is the memory of a list, up to its capacity; it holds the list, since memory that nobody
+// holds is given to another list.
+type piece struct {
+	from, to uintptr
+	held     reflect.Value
+}
 
 // pieces is the memory of all lists in a value.
 func pieces(v reflect.Value) []piece {
@@ -23,7 +27,7 @@ func pieces(v reflect.Value) []piece {
 		}
 	case reflect.Slice:
 		if v.Cap() > 0 {
-			list = append(list, piece{v.Pointer(), v.Pointer() + uintptr(v.Cap())*v.Type().Elem().Size()})
+			list = append(list, piece{v.Pointer(), v.Pointer() + uintptr(v.Cap())*v.Type().Elem().Size(), v})
 		}
 		for i := range v.Len() {
 			list = append(list, pieces(v.Index(i))...)

@@ -17,8 +17,12 @@ import (
 const allOfIt = `start E; layout W; cf E.Add = E "+" E; cf E.List = "[" {E ","}* N? "]"; cf E.Num = N; lex N = [0-9]+; lex K = "7"; lex W = " ";
 	prio left Add > Num List; prio non List; follow N [0-9]; follow E [x]; reject N K; box Add = group ( 1 nest 2 ( _ "+" / 2 ) ); box Num = 1;`
 
-// piece is the memory of a list, up to its capacity.
-type piece struct{ from, to uintptr }
+// piece is the memory of a list, up to its capacity; it holds the list, since memory that nobody
+// holds is given to another list.
+type piece struct {
+	from, to uintptr
+	held     reflect.Value
+}
 
 // pieces is the memory of all lists in a value.
 func pieces(v reflect.Value) []piece {
@@ -30,7 +34,7 @@ func pieces(v reflect.Value) []piece {
 		}
 	case reflect.Slice:
 		if v.Cap() > 0 {
-			list = append(list, piece{v.Pointer(), v.Pointer() + uintptr(v.Cap())*v.Type().Elem().Size()})
+			list = append(list, piece{v.Pointer(), v.Pointer() + uintptr(v.Cap())*v.Type().Elem().Size(), v})
 		}
 		for i := range v.Len() {
 			list = append(list, pieces(v.Index(i))...)

@@ -8,8 +8,12 @@ import (
 	"tracery/api"
 )
 
-// piece is the memory of a list, up to its capacity.
-type piece struct{ from, to uintptr }
+// piece is the memory of a list, up to its capacity; it holds the list, since memory that nobody
+// holds is given to another list.
+type piece struct {
+	from, to uintptr
+	held     reflect.Value
+}
 
 // pieces is the memory of all lists in a value.
 func pieces(x any) []piece {
@@ -23,7 +27,7 @@ func pieces(x any) []piece {
 			}
 		case reflect.Slice:
 			if v.Cap() > 0 {
-				list = append(list, piece{v.Pointer(), v.Pointer() + uintptr(v.Cap())*v.Type().Elem().Size()})
+				list = append(list, piece{v.Pointer(), v.Pointer() + uintptr(v.Cap())*v.Type().Elem().Size(), v})
 			}
 			for i := range v.Len() {
 				look(v.Index(i))
@@ -42,7 +46,7 @@ func great() api.Term {
 func TestNewMemory(t *testing.T) {
 	term, put, path := great(), list(lex("x"), app("C", lex("y"))), []int{1, 1}
 	mine := slices.Concat(pieces(term), pieces(put), pieces(path))
-	var kept []any // so that no memory is used twice
+	var kept []any
 	for range 2 {
 		for _, path := range [][]int{nil, path, {0}, {1}, {1, 2}, {1, 1, 0, 0}} {
 			at, e1 := At(term, path)
