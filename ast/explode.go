@@ -2,6 +2,7 @@ package ast
 
 import (
 	"tracery/api"
+	"tracery/lexicon"
 )
 
 // choice is a production, and the mask that says which of its symbols are there.
@@ -20,11 +21,11 @@ type exploder struct {
 	ones      map[int]int // of each list its rule of one part
 	mores     map[int]int // of each list its rule of several
 	gap, none int         // the gap's nonterminal, -1, if there is none; its rule of nothing
-	lexicon   lexicon
+	lexicon   lexicon.Lexicon
 }
 
 func newExploder(l language) *exploder {
-	e := &exploder{language: l, users: map[choice]int{}, ones: map[int]int{}, mores: map[int]int{}, gap: -1, lexicon: newLexicon(l.kern.Gram)}
+	e := &exploder{language: l, users: map[choice]int{}, ones: map[int]int{}, mores: map[int]int{}, gap: -1, lexicon: lexicon.New(l.kern.Gram)}
 	for rule, from := range l.kern.From {
 		nt := l.kern.Gram.Rules[rule].Lhs
 		switch from.Kind {
@@ -44,7 +45,9 @@ func newExploder(l language) *exploder {
 // tree is the plain tree of a term of a sort; it calls itself no deeper than MaxNest.
 func (e *exploder) tree(nt int, t api.Term) api.Tree {
 	if t.Kind == api.TLex {
-		return e.lexicon.tree(nt, t.Text)
+		first, is := e.lexicon.First(nt, t.Text)
+		need(is, api.ErrLex)
+		return first
 	}
 	place := e.cons[t.Cons]
 	mask, full := e.fill(place, t.Kids)

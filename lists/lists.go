@@ -1,4 +1,4 @@
-// Package lists has the parts of a list's node, as ast and paren both go through them.
+// Package lists has the parts of a list's node, and what stands in a hole, as ast, paren and box go through them.
 package lists
 
 import (
@@ -16,4 +16,17 @@ func Parts(from []api.Origin, list *api.Tree) []*api.Tree {
 	parts = append(parts, &list.Kids[0])
 	slices.Reverse(parts)
 	return parts
+}
+
+// Standing is the nodes of sorts that stand in a hole of a right tree's node, from the left: of a list its parts, none of what is left out. The hole is a place among its production's symbols, and names a sort.
+func Standing(from []api.Origin, node *api.Tree, hole int) []*api.Tree {
+	place := slices.Index(from[node.Rule].Syms, hole)
+	if place < 0 {
+		return nil
+	}
+	kid := &node.Kids[place]
+	if from[kid.Rule].Kind == api.OUser {
+		return []*api.Tree{kid}
+	}
+	return Parts(from, kid)
 }

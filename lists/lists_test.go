@@ -48,3 +48,23 @@ func TestPartsThemselves(t *testing.T) {
 		t.Errorf("%v", parts)
 	}
 }
+
+// Of a hole with a node that, of one with a list its parts, of one that is left out nothing; literals and gaps lie between.
+func TestStanding(t *testing.T) {
+	from := append(origins(), api.Origin{Kind: api.OUser, Syms: []int{0, 0, -1, 1, -1, 4, -1, 5}}, api.Origin{Kind: api.OGapNone})
+	node := api.Tree{Rule: 3, Kids: []api.Tree{{Rule: -1, Byte: 'a'}, {Rule: -1, Byte: 'b'}, {Rule: 4}, {Rule: 2, Byte: 7}, {Rule: 4}, list(3, 1), {Rule: 4}, list(1, 0)}}
+	if one := Standing(from, &node, 1); len(one) != 1 || one[0] != &node.Kids[3] {
+		t.Error(one)
+	}
+	if parts := Standing(from, &node, 4); !slices.Equal(parts, Parts(from, &node.Kids[5])) || len(parts) != 3 {
+		t.Error(parts)
+	}
+	if parts := Standing(from, &node, 5); len(parts) != 1 || parts[0] != &node.Kids[7].Kids[0] {
+		t.Error(parts)
+	}
+	for _, hole := range []int{2, 3, 6} {
+		if none := Standing(from, &node, hole); len(none) != 0 {
+			t.Error(hole, none)
+		}
+	}
+}

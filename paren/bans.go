@@ -2,39 +2,17 @@ package paren
 
 import (
 	"tracery/api"
+	"tracery/chains"
 	"tracery/kin"
 )
 
-// chainsOf is what chains say of a term's constructors among one another. What they say of others may be many millions of bans, and the term's tree meets none of these.
-func chainsOf(chains [][]api.Group, t api.Term) [][]api.Group {
+// chainsOf is what chains say of a term's constructors among one another: the term's tree meets no ban of others.
+func chainsOf(list [][]api.Group, t api.Term) [][]api.Group {
 	has := map[string]int{}
 	for part := range kin.Parts(&t, kin.OfTerm) {
 		has[part.Cons]++
 	}
-	var out [][]api.Group
-	for _, chain := range chains {
-		if groups := groupsOf(chain, has); len(groups) > 0 {
-			out = append(out, groups)
-		}
-	}
-	return out
-}
-
-// groupsOf is a chain's groups with those constructors alone that are had. A group without any is left out: none may be empty.
-func groupsOf(chain []api.Group, has map[string]int) []api.Group {
-	var out []api.Group
-	for _, g := range chain {
-		var cons []string
-		for _, name := range g.Cons {
-			if has[name] > 0 {
-				cons = append(cons, name)
-			}
-		}
-		if len(cons) > 0 {
-			out = append(out, api.Group{Assoc: g.Assoc, Cons: cons})
-		}
-	}
-	return out
+	return chains.Among(list, has)
 }
 
 // violated counts, for each node of a tree and each of its kids, the bans that the two violate. The map is made of the tree, not of the bans: there may be many more of these.

@@ -33,24 +33,18 @@ func (b *brackets) paths(tree *api.Tree) [][]int {
 
 // kids is the nodes that stand in a node's holes, from the left; a lexeme has none.
 func (b *brackets) kids(node *api.Tree) []kid {
-	from := b.kern.From[node.Rule]
-	p := b.kern.Def.Prods[from.Prod]
+	p := b.kern.Def.Prods[b.kern.From[node.Rule].Prod]
 	if p.Lex {
 		return nil
 	}
 	var list []kid
 	for number, hole := range check.Holes(p) {
-		place := slices.Index(from.Syms, hole)
-		switch kind := p.Syms[hole].Kind; {
-		case place < 0: // it is left out
-		case kind == api.SSort:
-			list = append(list, kid{&node.Kids[place], []int{number}})
-		case kind == api.SOpt:
-			list = append(list, kid{&node.Kids[place], []int{number, 0}})
-		default:
-			for n, part := range lists.Parts(b.kern.From, &node.Kids[place]) {
-				list = append(list, kid{part, []int{number, n}})
+		for n, inner := range lists.Standing(b.kern.From, node, hole) {
+			steps := []int{number, n}
+			if p.Syms[hole].Kind == api.SSort {
+				steps = steps[:1]
 			}
+			list = append(list, kid{inner, steps})
 		}
 	}
 	return list

@@ -1,4 +1,5 @@
-package ast
+// Package lexicon has the first trees of texts, as ast asks for those of lexemes and notes for those of gaps.
+package lexicon
 
 import (
 	"slices"
@@ -10,44 +11,47 @@ import (
 	"tracery/trees"
 )
 
-// lexeme is a text of a lexical sort's nonterminal.
-type lexeme struct {
+// entry is a text of a nonterminal.
+type entry struct {
 	nt   int
 	text string
 }
 
-// lexicon finds lexemes' trees. Those that were met are kept, since a term may have the same ones often.
-type lexicon struct {
+// Lexicon finds first trees. Those that were met are kept, since the same text is often asked for again.
+type Lexicon struct {
 	gram  api.Gram
 	parts map[int]part
-	met   map[lexeme]api.Tree
+	met   map[entry]api.Tree
 }
 
-// part is the rules of a grammar that one nonterminal needs, with numbers of their own: a lexeme is looked for soon among them, and slowly among thousands of others.
+// part is the rules of a grammar that one nonterminal needs, with numbers of their own: a text is looked for soon among them, and slowly among thousands of others.
 type part struct {
 	gram  api.Gram
 	rules []int // of each rule its place in the whole grammar
 }
 
-func newLexicon(g api.Gram) lexicon {
-	return lexicon{gram: g, parts: map[int]part{}, met: map[lexeme]api.Tree{}}
+// New is the lexicon of a grammar that is right and not cyclic.
+func New(g api.Gram) Lexicon {
+	return Lexicon{gram: g, parts: map[int]part{}, met: map[entry]api.Tree{}}
 }
 
-// tree is the first tree of a nonterminal over a text, in new memory; it gives up, if there is none.
-func (l lexicon) tree(nt int, text []byte) api.Tree {
-	need(len(text) <= api.MaxInput, api.ErrLex)
-	key := lexeme{nt, string(text)}
+// First is the first tree of a nonterminal over a text, in new memory; false: the text is too long, or there is none.
+func (l Lexicon) First(nt int, text []byte) (api.Tree, bool) {
+	key := entry{nt, string(text)}
 	first, met := l.met[key]
 	if !met {
-		first = l.part(nt).first(text)
+		var is bool
+		if first, is = l.part(nt).first(text); !is {
+			return api.Tree{}, false
+		}
 		l.met[key] = first
 	}
 	own, _ := trees.At(first, nil)
-	return own
+	return own, true
 }
 
 // part is the rules that a nonterminal needs.
-func (l lexicon) part(nt int) part {
+func (l Lexicon) part(nt int) part {
 	p, made := l.parts[nt]
 	if !made {
 		p = partOf(l.gram, nt)
@@ -85,13 +89,15 @@ func partOf(g api.Gram, start int) part {
 }
 
 // first is the first tree over a text, its rules those of the whole grammar: they come in the same order in both.
-func (p part) first(text []byte) api.Tree {
-	list, _ := forest.Trees(p.gram, text, 1)
-	need(len(list) == 1, api.ErrLex)
+func (p part) first(text []byte) (api.Tree, bool) {
+	list, _ := forest.Trees(p.gram, text, 1) // none of a text that is too long
+	if len(list) == 0 {
+		return api.Tree{}, false
+	}
 	for node := range kin.Parts(&list[0], kin.OfTree) {
 		if node.Rule >= 0 {
 			node.Rule = p.rules[node.Rule]
 		}
 	}
-	return list[0]
+	return list[0], true
 }
