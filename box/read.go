@@ -2,7 +2,6 @@ package box
 
 import (
 	"slices"
-	"strings"
 
 	"tracery/api"
 	"tracery/chains"
@@ -15,22 +14,10 @@ import (
 
 // isRead tells whether a text is read as a term of Start: whether that is the term of one of the first trees that are kept.
 func isRead(d api.Def, text string, t api.Term) bool {
-	d.Chains = chains.Among(d.Chains, consIn(d, text))
+	d.Chains = chains.In(d, text)
 	kern, _ := kernel.Make(d)
 	list, _ := filter.Trees(kern.Gram, kern.Filters, []byte(text), api.MaxTrees)
 	return slices.ContainsFunc(list, func(tree api.Tree) bool { return hasTerm(&kern, &tree, t) })
-}
-
-// consIn counts the constructors whose literals stand in a text: no tree of it has a node of another one, and none is met by a ban of that.
-func consIn(d api.Def, text string) map[string]int {
-	has := map[string]int{}
-	for _, p := range d.Prods {
-		lacks := func(s api.Sym) bool { return !strings.Contains(text, s.Text) } // no symbol but a literal has a Text
-		if !p.Lex && !slices.ContainsFunc(p.Syms, lacks) {
-			has[p.Cons]++
-		}
-	}
-	return has
 }
 
 // pair is a node, and the term that its own is to be.

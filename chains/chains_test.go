@@ -1,8 +1,10 @@
 package chains
 
 import (
+	"math"
 	"reflect"
 	"slices"
+	"strings"
 	"testing"
 
 	"tracery/api"
@@ -48,5 +50,49 @@ func TestAmong(t *testing.T) {
 		if !defs.Same(d, must(t, text+prio)) {
 			t.Error("the chains changed")
 		}
+	}
+}
+
+// mixed has literals that stand in one another, and all kinds of holes.
+const mixed = `start E; cf E.A = "a"; cf E.Aa = "aa" E; cf E.Ab = "a" E "b" E?; cf E.L = E* "l" {E ","}+ N; cf E.O = E? "abc" N?; cf E.H = N N; cf E = "(" E ")" bracket; lex N = "n";
+	prio left A Aa > right Ab > non L O H; prio H > L > A;`
+
+// had is the constructors that chains name, each once, in their order.
+func had(chains [][]api.Group) string {
+	text := ""
+	for _, chain := range chains {
+		for _, g := range chain {
+			for _, name := range g.Cons {
+				if !strings.Contains(text+" ", " "+name+" ") {
+					text += " " + name
+				}
+			}
+		}
+	}
+	return text
+}
+
+// What is left are the constructors whose literals stand in a text.
+func TestIn(t *testing.T) {
+	d := must(t, mixed)
+	for text, want := range map[string]string{
+		"": " H", "a": " A H", "aa": " A Aa H", "b": " H", "ab": " A Ab H", "l": " L H", "abc": " A Ab O H", "aabcl": " A Aa Ab L O H", "()": " H", "a\nl": " A L H",
+	} {
+		if have := had(In(d, text)); have != want {
+			t.Errorf("%q:%s, not%s", text, have, want)
+		}
+	}
+}
+
+// What is left are the constructors of which a node has no more bytes.
+func TestWithin(t *testing.T) {
+	d := must(t, mixed)
+	for n, want := range map[int]string{math.MinInt: "", -1: "", 0: "", 1: " A", 2: " A H", 3: " A Aa Ab L O H", 9: " A Aa Ab L O H", math.MaxInt: " A Aa Ab L O H"} {
+		if have := had(Within(d, n)); have != want {
+			t.Errorf("%d:%s, not%s", n, have, want)
+		}
+	}
+	if !defs.Same(d, must(t, mixed)) {
+		t.Error("the definition changed")
 	}
 }
